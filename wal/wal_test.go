@@ -350,21 +350,33 @@ func TestP4_1ABrokenLogIsNone(t *testing.T) {
 }
 
 func TestP4_3ALogGoesOnAndCrashesAgain(t *testing.T) {
+	old, other, third := texts("a", "b"), texts("another that is longer"), texts("c", "d", "e and more", "f")
 	for first := range 8 {
-		for second := range 8 {
+		for second := range 12 {
 			for at := range 48 {
-				d := disk.New(16, 128)
-				l, _ := open(t, d)
-				l.Commit(texts("a", "b")...)
-				d.Cut(first)
-				l.Reset([]byte("another that is longer"))
-				d.Crash(^uint64(0), -1, 0)
-				_, now := open(t, d)
-				d.Cut(second)
-				l.Commit([]byte("c"))
-				d.Crash(0, 0, at)
-				if _, r := open(t, d); !same(r, now) && !same(r, texts("a", "b")) && !same(r, texts("a", "b", "c")) && !same(r, texts("another that is longer", "c")) {
-					t.Fatalf("cut at %d, %d, torn at %d: %q", first, second, at, r)
+				for _, reset := range []bool{false, true} {
+					d := disk.New(16, 128)
+					l, _ := open(t, d)
+					l.Commit(old...)
+					d.Cut(first)
+					told := old
+					if l.Reset(other...) == api.OK {
+						told = other
+					}
+					d.Crash(^uint64(0), -1, 0)
+					_, now := open(t, d)
+					d.Cut(second)
+					then := third
+					if reset {
+						l.Reset(third...)
+					} else {
+						l.Commit(third...)
+						then = append(slices.Clone(told), third...)
+					}
+					d.Crash(0, 0, at)
+					if _, r := open(t, d); !same(r, now) && !same(r, told) && !same(r, then) {
+						t.Fatalf("cut at %d, %d, torn at %d: %q", first, second, at, r)
+					}
 				}
 			}
 		}
