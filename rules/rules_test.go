@@ -16,7 +16,7 @@ import (
 )
 
 // landed: how many layers are built; those above are stubs.
-const landed = 25
+const landed = 26
 
 // layer: a package, the layers that it calls, the ways that it leans on.
 type layer struct {
@@ -68,6 +68,9 @@ var layers = []layer{
 // helpers: packages beside the layers, which call no layer.
 var helpers = []string{"api", "fresh", "lines"}
 
+// samples: packages that only tests call.
+var samples = []string{"sample"}
+
 var library = []string{
 	"bytes", "cmp", "container/heap", "errors", "iter", "maps", "math", "math/bits", "slices", "sort",
 	"strconv", "strings", "sync", "sync/atomic", "unicode", "unicode/utf8",
@@ -96,7 +99,7 @@ func files(t *testing.T, folder string) (map[string]*ast.File, *token.FileSet) {
 }
 
 func folders() []string {
-	out := slices.Clone(helpers)
+	out := append(slices.Clone(helpers), samples...)
 	for _, l := range layers {
 		out = append(out, l.name)
 	}
