@@ -16,7 +16,7 @@ import (
 )
 
 // landed: how many layers are built; those above are stubs.
-const landed = 29
+const landed = 30
 
 // layer: a package, the layers that it calls, the ways that it leans on.
 type layer struct {
