@@ -56,10 +56,12 @@ type demand struct {
 // puzzle: rows and needs, by numbers.
 type puzzle struct {
 	names   []string   // in order
+	all     set        // names
 	order   [][]int    // by name: its rows, the greatest version first
 	of      []set      // by name: its rows
 	name    []int      // by row: its name
 	demands [][]demand // by row
+	needed  []set      // by row: the names that it needs
 	roots   []demand
 }
 
@@ -67,6 +69,9 @@ func newPuzzle(rows []api.Row, needs []api.Need) *puzzle {
 	p := &puzzle{names: index.Names(rows)}
 	p.order = make([][]int, len(p.names))
 	p.of = make([]set, len(p.names))
+	for i := range p.names {
+		p.all.add(i)
+	}
 	for i, r := range rows {
 		n, _ := slices.BinarySearch(p.names, r.Name)
 		p.name = append(p.name, n)
@@ -77,7 +82,9 @@ func newPuzzle(rows []api.Row, needs []api.Need) *puzzle {
 		slices.SortStableFunc(l, func(a, b int) int { return ver.Cmp(rows[b].V, rows[a].V) })
 	}
 	for _, r := range rows {
-		p.demands = append(p.demands, p.demandsOf(rows, r.Needs))
+		l := p.demandsOf(rows, r.Needs)
+		p.demands = append(p.demands, l)
+		p.needed = append(p.needed, namesOf(l))
 	}
 	p.roots = p.demandsOf(rows, needs)
 	return p
@@ -99,6 +106,16 @@ func (p *puzzle) demandsOf(rows []api.Row, needs []api.Need) []demand {
 			}
 		}
 		out = append(out, d)
+	}
+	return out
+}
+
+func namesOf(l []demand) set {
+	var out set
+	for _, d := range l {
+		if d.name != nowhere {
+			out.add(d.name)
+		}
 	}
 	return out
 }

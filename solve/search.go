@@ -30,25 +30,62 @@ type frame struct {
 	why  error // why the one ahead of it didn't fit
 }
 
-// search tells the rows of the greatest solution: names are decided in order, each from its best choice on, so the first one that is found is it.
-func (p *puzzle) search(budget int) (set, error) {
-	s, err := p.start()
+// hunt: a search in a puzzle, and how much it may cost yet.
+type hunt struct {
+	*puzzle
+	budget int
+}
+
+// greatest tells the rows of the greatest solution: names are decided in order, each by its best choice that some solution has.
+func (h *hunt) greatest() (set, error) {
+	s, err := h.start()
 	if err != nil {
 		return set{}, err
 	}
-	stack := []frame{{state: s, name: p.open(s)}}
-	cost := 1 + len(p.name)/16 // the more rows, the more work is a step
+	found, err := h.find(s)
+	for err == nil && h.open(s) < len(h.names) {
+		s, found, err = h.decide(s, h.open(s), found)
+	}
+	return found, err
+}
+
+// decide tells what the best choice at name i leaves, and a solution that has it, where one is known that may be another.
+func (h *hunt) decide(s state, i int, known set) (state, set, error) {
+	f := frame{state: s, name: i}
+	for {
+		c, ok := h.choose(&f)
+		if !ok {
+			return state{}, set{}, &conflict{name: h.names[i], reason: f.why}
+		}
+		if f.why = h.settle(&c); f.why != nil {
+			continue
+		}
+		if known.and(h.of[i]) == c.rows.and(h.of[i]) {
+			return c, known, nil
+		}
+		found, err := h.find(c)
+		var no *conflict
+		if !errors.As(err, &no) {
+			return c, found, err
+		}
+		f.why = no
+	}
+}
+
+// find tells a solution of s, whichever: where the fewest choices are left it goes on.
+func (h *hunt) find(s state) (set, error) {
+	stack := []frame{{state: s, name: h.pick(s)}}
 	for {
 		top := &stack[len(stack)-1]
-		if top.name == len(p.names) {
-			return top.rows, nil
+		if top.name == len(h.names) {
+			return h.taken(top.state), nil
 		}
-		if budget -= cost; budget < 0 {
-			return set{}, fault.Wrap("solve", p.names[top.name], api.ErrExhausted)
+		if h.budget -= 1 + len(h.name)/8; h.budget < 0 { // the more rows, the more work is a step
+			return set{}, fault.Wrap("solve", h.names[top.name], api.ErrExhausted)
 		}
-		s, ok := p.choose(top)
+		c, ok := h.choose(top)
 		if !ok {
-			err := &conflict{name: p.names[top.name], reason: top.why}
+			err := &conflict{name: h.names[top.name], reason: top.why}
 			stack = stack[:len(stack)-1]
 			if len(stack) == 0 {
 				return set{}, err
@@ -56,22 +93,47 @@ func (p *puzzle) search(budget int) (set, error) {
 			stack[len(stack)-1].why = err
 			continue
 		}
-		err := p.settle(&s)
-		var c *conflict
-		if errors.As(err, &c) {
-			top.why = c
+		if top.why = h.settle(&c); top.why == nil {
+			stack = append(stack, frame{state: c, name: h.pick(c)})
+		}
+	}
+}
+
+// pick tells the name at which to go on (none: one behind the last, all that is left open may be left out).
+func (h *hunt) pick(s state) int {
+	lost := h.required(s).minus(h.reach(h.taken(s)))
+	best, least := len(h.names), 0
+	for i := range h.names {
+		n := h.choices(s, i)
+		if n < 2 || s.spare.has(i) && !h.leads(s, i, lost) {
 			continue
 		}
-		stack = append(stack, frame{state: s, name: p.open(s)})
+		// What must be there goes ahead of what may only be needed for it.
+		if s.spare.has(i) {
+			n += len(h.name) + 1
+		}
+		if best == len(h.names) || n < least {
+			best, least = i, n
+		}
 	}
+	return best
+}
+
+// leads tells whether a row of name i that may be taken needs one of names.
+func (h *hunt) leads(s state, i int, names set) bool {
+	for _, r := range h.order[i] {
+		if s.rows.has(r) && !h.needed[r].and(names).none() {
+			return true
+		}
+	}
+	return false
 }
 
 // start tells what may be chosen where nothing is decided yet.
 func (p *puzzle) start() (state, error) {
-	var s state
+	s := state{spare: p.all}
 	for i := range p.names {
 		s.rows = s.rows.or(p.of[i])
-		s.spare.add(i)
 	}
 	for _, d := range p.roots {
 		if d.name == nowhere {
@@ -85,12 +147,36 @@ func (p *puzzle) start() (state, error) {
 // open tells the first name at which more than one choice is left (none: one behind the last).
 func (p *puzzle) open(s state) int {
 	for i := range p.names {
-		n := s.rows.and(p.of[i]).count()
-		if n > 1 || n == 1 && s.spare.has(i) {
+		if p.choices(s, i) > 1 {
 			return i
 		}
 	}
 	return len(p.names)
+}
+
+// choices tells how many choices are left at name i.
+func (p *puzzle) choices(s state, i int) int {
+	n := s.rows.and(p.of[i]).count()
+	if s.spare.has(i) {
+		n++
+	}
+	return n
+}
+
+// required tells the names that can't be left out.
+func (p *puzzle) required(s state) set {
+	return p.all.minus(s.spare)
+}
+
+// taken tells the rows that are left of names that can't be left out.
+func (p *puzzle) taken(s state) set {
+	var out set
+	for i := range p.names {
+		if !s.spare.has(i) {
+			out = out.or(s.rows.and(p.of[i]))
+		}
+	}
+	return out
 }
 
 // choose tells what the next choice at f's name leaves, and whether there is one: its rows, the greatest version first, then none of them.

@@ -11,6 +11,7 @@ func (p *puzzle) settle(s *state) error {
 		before := *s
 		p.dropUnmet(s)
 		p.pass(s)
+		p.claim(s)
 		p.dropUnreached(s)
 		for i, n := range p.names {
 			if !s.spare.has(i) && s.rows.and(p.of[i]).none() {
@@ -81,11 +82,21 @@ func (p *puzzle) common(order []int, rows set) ([]demand, map[int]int) {
 
 // dropUnreached takes out rows whose names nothing that may be taken leads to.
 func (p *puzzle) dropUnreached(s *state) {
+	seen := p.reach(s.rows)
+	for i := range p.names {
+		if !seen.has(i) {
+			s.rows = s.rows.minus(p.of[i])
+		}
+	}
+}
+
+// reach tells the names that the project needs, or a row of rows of a name that is reached.
+func (p *puzzle) reach(rows set) set {
 	var seen set
 	var todo []int
 	visit := func(l []demand) {
 		for _, d := range l {
-			if !seen.has(d.name) && !d.fits.and(s.rows).none() {
+			if !d.fits.and(rows).none() && !seen.has(d.name) {
 				seen.add(d.name)
 				todo = append(todo, d.name)
 			}
@@ -96,14 +107,45 @@ func (p *puzzle) dropUnreached(s *state) {
 		i := todo[len(todo)-1]
 		todo = todo[:len(todo)-1]
 		for _, r := range p.order[i] {
-			if s.rows.has(r) {
+			if rows.has(r) {
 				visit(p.demands[r])
 			}
 		}
 	}
+	return seen
+}
+
+// claim hands back that a name which can't be left out is needed: where the rows of one name alone need it, one of these must be taken.
+func (p *puzzle) claim(s *state) {
+	rooted := namesOf(p.roots)
 	for i := range p.names {
-		if !seen.has(i) {
-			s.rows = s.rows.minus(p.of[i])
+		if s.spare.has(i) || rooted.has(i) {
+			continue
+		}
+		users := p.users(s, i)
+		if user, alone := p.onlyName(users); alone {
+			s.require(p, user, users)
 		}
 	}
+}
+
+// users tells the rows that may be taken and need name i.
+func (p *puzzle) users(s *state, i int) set {
+	var out set
+	for r, l := range p.needed {
+		if s.rows.has(r) && l.has(i) {
+			out.add(r)
+		}
+	}
+	return out
+}
+
+// onlyName tells the name of rows, and whether all have it.
+func (p *puzzle) onlyName(rows set) (int, bool) {
+	for i, of := range p.of {
+		if !rows.and(of).none() {
+			return i, rows.minus(of).none()
+		}
+	}
+	return nowhere, false
 }

@@ -253,6 +253,55 @@ func TestP15_3NeverExhaustedOfFew(t *testing.T) {
 	}
 }
 
+func TestP15_3OneOfSeveral(t *testing.T) {
+	// Eleven names, of which a version of z needs one alone: each is there only with that version.
+	var b strings.Builder
+	for i := range 11 {
+		for v := range 3 {
+			fmt.Fprintf(&b, "%c%d;", 'a'+i, v+1)
+		}
+	}
+	for i := range 7 {
+		fmt.Fprintf(&b, "z%d %c*;", i+1, 'a'+10-i)
+	}
+	if got, e := solve.Solve(rows(t, b.String()), needs(t, "z*"), full); e != api.OK || look(got) != "e3 z7" {
+		t.Errorf("%v %q", e, look(got))
+	}
+}
+
+// apart: n names of m versions each, no two of which may have the same one.
+func apart(t *testing.T, n, m int) ([]api.Row, []api.Need) {
+	var b, all strings.Builder
+	for i := range n {
+		fmt.Fprintf(&all, "%c* ", 'a'+i)
+		for v := range m {
+			fmt.Fprintf(&b, "%c%d", 'a'+i, v+1)
+			for j := range n {
+				if j != i {
+					fmt.Fprintf(&b, " %c<%d|>%d", 'a'+j, v+1, v+1)
+				}
+			}
+			b.WriteString(";")
+		}
+	}
+	return rows(t, b.String()), needs(t, all.String())
+}
+
+func TestP15_3Apart(t *testing.T) {
+	r, n := apart(t, 6, 6)
+	if got, e := solve.Solve(r, n, full); e != api.OK || look(got) != "a6 b5 c4 d3 e2 f1" {
+		t.Errorf("%v %q", e, look(got))
+	}
+	r, n = apart(t, 7, 5)
+	if _, e := solve.Solve(r, n, full); e != api.ErrUnsat {
+		t.Error(e)
+	}
+	r, n = apart(t, 12, 11) // more than the budget is for
+	if got, e := solve.Solve(r, n, 1<<14); e == api.OK || got != nil {
+		t.Error(e)
+	}
+}
+
 func TestP15EndsOfMany(t *testing.T) {
 	rnd := rand.New(rand.NewSource(3))
 	var b strings.Builder
