@@ -180,6 +180,9 @@ func TestP8_1Space(t *testing.T) {
 	if x.Size() != api.MaxTree || len(x.Files()) != 16 {
 		t.Error("what was refused was done")
 	}
+	if x.Mkdir("d/e") != api.OK || x.Rename("f0", "d/e/f/g") != api.OK || x.Rename("d/e/f/g", "f0") != api.OK || x.Remove("d") != api.OK {
+		t.Error("directories have no bytes")
+	}
 	if x.Write("f0", big[1:]) != api.OK || x.Write("new", []byte{1}) != api.OK || x.Append("new", nil) != api.OK {
 		t.Error("just as large as may be")
 	}
@@ -210,6 +213,10 @@ func TestP8_1Files500(t *testing.T) {
 	}
 	if len(x.Files()) != api.MaxFiles-2 {
 		t.Error("what was refused was done")
+	}
+	x.Write("d/b/c", nil)
+	if x.Write("d/b/c", []byte("1")) != api.OK || x.Append("0", []byte("2")) != api.OK || x.Mkdir("d/b") != api.OK || x.Rename("0", "00") != api.OK || x.Write("new", nil) != api.ErrSpace {
+		t.Error("as many as may be")
 	}
 }
 

@@ -188,8 +188,8 @@ func TestP4_2Room(t *testing.T) {
 	}
 }
 
-// crashes does do on copies of d, with the power cut at each of its writes and flushes, and hands what each way of keeping and tearing leaves to look.
-func crashes(d *disk.Disk, rnd *rand.Rand, do func(d *disk.Disk) api.Errno, look func(d *disk.Disk)) {
+// crashes does do on copies of d, with the power cut at each of its writes and flushes, and hands what it told, and what each way of keeping and tearing leaves, to look.
+func crashes(d *disk.Disk, rnd *rand.Rand, do func(d *disk.Disk) api.Errno, look func(d *disk.Disk, e api.Errno)) {
 	for n := 0; ; n++ {
 		c := d.Copy()
 		c.Cut(n)
@@ -198,7 +198,7 @@ func crashes(d *disk.Disk, rnd *rand.Rand, do func(d *disk.Disk) api.Errno, look
 			for _, at := range []int{0, 1, 2, 5, 8, 9, 30, c.Size() - 8, c.Size() - 7, c.Size() - 1, rnd.Intn(c.Size())} {
 				x := c.Copy()
 				x.Crash(keep, rnd.Intn(4)-1, at)
-				look(x)
+				look(x, e)
 			}
 		}
 		if e != api.ErrDiskDead {
@@ -238,10 +238,10 @@ func TestP4_3Crashes(t *testing.T) {
 				continue
 			}
 			var left []*disk.Disk
-			crashes(d, rnd, do, func(x *disk.Disk) {
+			crashes(d, rnd, do, func(x *disk.Disk, e api.Errno) {
 				_, r := open(t, x)
-				if !same(r, now) && !same(r, then) {
-					t.Fatalf("round %d: %d records, neither %d nor %d", round, len(r), len(now), len(then))
+				if !same(r, then) && (!same(r, now) || e == api.OK) {
+					t.Fatalf("round %d: %v, %d records, neither %d nor %d", round, e, len(r), len(now), len(then))
 				}
 				left = append(left, x)
 			})
@@ -342,11 +342,39 @@ func TestP4_1ABrokenLogIsNone(t *testing.T) {
 	crashes(d, rnd, func(d *disk.Disk) api.Errno {
 		l, _ := open(t, d)
 		return l.Commit(texts("a", "b")...)
-	}, func(x *disk.Disk) {
-		if _, r := open(t, x); len(r) != 0 && !same(r, texts("a", "b")) {
-			t.Errorf("%q", r)
+	}, func(x *disk.Disk, e api.Errno) {
+		if _, r := open(t, x); (len(r) != 0 || e == api.OK) && !same(r, texts("a", "b")) {
+			t.Errorf("%v: %q", e, r)
 		}
 	})
+}
+
+func TestP4_1ALogOfOtherFramesIsNone(t *testing.T) {
+	d := disk.New(16, 128)
+	l, _ := open(t, d)
+	l.Commit([]byte("four"))
+	d.Write(2, make([]byte, 128)) // two frames of nothing, in the place of one
+	d.Flush()
+	if l, r := open(t, d); len(r) != 0 || l.Count() != 0 {
+		t.Errorf("%q", r)
+	}
+}
+
+func TestP4_4RecordsOfAnyLength(t *testing.T) {
+	d := disk.New(4096, 4096)
+	l, _ := open(t, d)
+	var all [][]byte
+	for i, n := range []int{0, 1, 255, 256, 257, 65535, 65536, 65537, api.MaxRecord - 1, api.MaxRecord} {
+		all = append(all, bytes.Repeat([]byte{byte(i + 1)}, n))
+	}
+	ok(t, "Commit", l.Commit(all...), api.OK)
+	if _, r := open(t, d); !same(r, all) {
+		t.Error("not read back")
+	}
+	ok(t, "Reset", l.Reset(all[5:]...), api.OK)
+	if _, r := open(t, d); !same(r, all[5:]) {
+		t.Error("not read back behind Reset")
+	}
 }
 
 func TestP4_3ALogGoesOnAndCrashesAgain(t *testing.T) {
