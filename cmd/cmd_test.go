@@ -38,6 +38,15 @@ func do(t *testing.T, w cmd.World, e cmd.Env, l ...api.Cmd) cmd.World {
 	return w
 }
 
+func TestP26_2WhatIsCachedIsNotFetched(t *testing.T) {
+	e := env()
+	w := do(t, cmd.World{}, e, c(api.CmdInit, "me", "0.1.0"), c(api.CmdAdd, "app", "1.0.0"))
+	x := do(t, w, cmd.Env{Rows: e.Rows}, c(api.CmdInstall, "", ""), c(api.CmdUpdate, "", ""))
+	if !same(x, w) {
+		t.Error("installed otherwise")
+	}
+}
+
 // sound: whether the cache's sums are in order, and those of its bytes.
 func sound(t *testing.T, w cmd.World) {
 	t.Helper()
@@ -247,6 +256,7 @@ func TestP26_2NothingHandedInChanges(t *testing.T) {
 	e := env()
 	w := do(t, cmd.World{}, e, c(api.CmdInit, "me", "0.1.0"), c(api.CmdAdd, "app", "1.0.0"))
 	kept, _ := cmd.Do(w, e, api.Cmd{Kind: 99})
+	kept.S.Cache = slices.Clone(w.S.Cache)
 	for kind := range 8 {
 		got, _ := cmd.Do(w, e, c(kind, "log", "*"))
 		for _, f := range got.S.Tree {

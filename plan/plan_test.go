@@ -161,6 +161,8 @@ func TestP23_1InstallVerifySweep(t *testing.T) {
 			told(t, "an unmet need", p, err, "n", api.ErrDrift)
 			p, err = plan.Of(api.State{Manifest: m}, nil, cmd(kind, "n", "t"))
 			told(t, "no lockfile", p, err, "n", api.ErrDrift)
+			p, err = plan.Of(api.State{Manifest: head + "need b *\n", Lock: l}, nil, cmd(kind, "n", "t"))
+			told(t, "pins of other names", p, err, "n", api.ErrDrift)
 		} else if err != nil {
 			t.Errorf("%d: %v", kind, err)
 		}

@@ -94,7 +94,7 @@ func TestP17_3Text(t *testing.T) {
 		t.Error("of nothing")
 	}
 	// Lines that no script has.
-	script.Text([]api.Line{{Kind: api.LEnd}, {Kind: api.LElse}, {Kind: api.LEnd}, {Kind: -1}, {Kind: 99}, {Kind: api.LRepeat, N: -5}})
+	script.Text([]api.Line{{Kind: api.LEnd}, {Kind: api.LElse}, {Kind: api.LEnd}, {Kind: -1}, {Kind: api.LFail + 1}, {Kind: 99}, {Kind: api.LRepeat, N: -5}})
 }
 
 func TestP17_4ParseOfText(t *testing.T) {

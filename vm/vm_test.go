@@ -90,6 +90,10 @@ func TestP18_1Names(t *testing.T) {
 	check(t, "copy f $v\nrename $v $a1", done{2, 2, api.OK, "f=1 x/ x/y=1"})
 	check(t, "mkdir $v\nif exists $v\nremove $v\nend", done{4, 4, api.OK, "f=1"})
 	check(t, `remove $none`, done{1, 0, api.ErrKind, "f=1"})
+	odd := map[string]string{"az09": "1", "z": "2", "a0": "3"}
+	if got := run(t, "set zz90 \"$az09$z$a0\"\nwrite f \"$zz90\"", odd, 9); got != (done{2, 2, api.OK, "f=123"}) {
+		t.Errorf("%v", got)
+	}
 	vars := map[string]string{"v": "$u", "u": "no"}
 	got := run(t, "set u \"$v$v\"\nset n9 \"$u!\"\nset v \"\"\nwrite f \"$n9$v\"", vars, 9)
 	if got.tree != "f=$u$u!" || !maps.Equal(vars, map[string]string{"v": "", "u": "$u$u", "n9": "$u$u!"}) {
