@@ -15,9 +15,6 @@ import (
 	"testing"
 )
 
-// landed: how many layers are built; those above are stubs.
-const landed = 30
-
 // layer: a package, the layers that it calls, the ways that it leans on.
 type layer struct {
 	name  string
@@ -230,7 +227,7 @@ func checkVariable(t *testing.T, p string, v *ast.ValueSpec) {
 }
 
 func TestWays(t *testing.T) {
-	for _, l := range layers[:landed] {
+	for _, l := range layers {
 		got := map[string]bool{}
 		fs, _ := files(t, l.name)
 		for _, f := range fs {

@@ -240,6 +240,90 @@ func TestP15_4TheGreatest(t *testing.T) {
 	}
 }
 
+// first: the greatest set that Fits, as a search tells that goes through names in order, each from its best choice on.
+func first(r []api.Row, n []api.Need) string {
+	names := index.Names(r)
+	chosen := map[string]*api.Row{} // of the names that are decided; nil: left out
+	met := func(l []api.Need) bool {
+		for _, x := range l {
+			if row, decided := chosen[x.Name]; decided && (row == nil || !span.Has(x.Span, row.V)) {
+				return false
+			}
+		}
+		return true
+	}
+	fine := func() bool {
+		for _, row := range chosen {
+			if row != nil && !met(row.Needs) {
+				return false
+			}
+		}
+		return met(n)
+	}
+	var try func(i int, l []api.Pin) (string, bool)
+	try = func(i int, l []api.Pin) (string, bool) {
+		if i == len(names) {
+			return look(l), solve.Fits(r, n, l)
+		}
+		defer delete(chosen, names[i])
+		for _, v := range index.Versions(r, names[i]) {
+			row, _ := index.Find(r, names[i], v)
+			if chosen[names[i]] = &row; fine() {
+				if s, ok := try(i+1, append(slices.Clone(l), api.Pin{Name: row.Name, V: row.V, Sum: row.Sum})); ok {
+					return s, true
+				}
+			}
+		}
+		if chosen[names[i]] = nil; fine() {
+			return try(i+1, l)
+		}
+		return "", false
+	}
+	if s, ok := try(0, nil); ok {
+		return s
+	}
+	return "-"
+}
+
+// tangle: names of m versions each, each of which needs some of the others in some versions; the first few are needed.
+func tangle(t *testing.T, rnd *rand.Rand, names, m, share, few int) ([]api.Row, []api.Need) {
+	var b, n strings.Builder
+	for i := range names {
+		for v := range m {
+			fmt.Fprintf(&b, "%c%d", 'a'+i, v+1)
+			for j := range names {
+				if j != i && rnd.Intn(100) < share {
+					fmt.Fprintf(&b, " %c%d|%d", 'a'+j, 1+rnd.Intn(m), 1+rnd.Intn(m))
+				}
+			}
+			b.WriteString(";")
+		}
+		if i < few {
+			fmt.Fprintf(&n, "%c* ", 'a'+i)
+		}
+	}
+	return rows(t, b.String()), needs(t, n.String())
+}
+
+func TestP15_4TheGreatestOfTangles(t *testing.T) {
+	rnd := rand.New(rand.NewSource(8))
+	sat := 0
+	for i := range 200 {
+		r, n := tangle(t, rnd, 8, 5, 22+i%16, []int{1, 4, 8}[i%3])
+		want := first(r, n)
+		got, e := solve.Solve(r, n, full)
+		if want == "-" && e != api.ErrUnsat || want != "-" && look(got) != want {
+			t.Fatalf("%s\n%v %q, not %q", index.Text(r), e, look(got), want)
+		}
+		if e == api.OK {
+			sat++
+		}
+	}
+	if sat < 20 || sat > 180 {
+		t.Errorf("%d of them fit: the tangles show little", sat)
+	}
+}
+
 func TestP15_3NeverExhaustedOfFew(t *testing.T) {
 	rnd := rand.New(rand.NewSource(2))
 	for i := range 3000 {
