@@ -16,6 +16,8 @@ const (
 	atCount = atUsed + 8
 )
 
+const maxCount = 1<<31 - 1 // records
+
 func (h header) bytes(size int) []byte {
 	b := make([]byte, size)
 	put64(b, h.seq)
@@ -32,7 +34,7 @@ func parse(b []byte, capacity int) (header, bool) {
 	seq := get64(b)
 	half, used, count := get64(b[atHalf:]), get64(b[atUsed:]), get64(b[atCount:])
 	whole := seq != 0 && seq == get64(b[len(b)-8:]) && string(b[atMagic:atHalf]) == magic
-	if !whole || half > 1 || used > uint64(capacity) || count > used/frameHead {
+	if !whole || half > 1 || used > uint64(capacity) || count > maxCount {
 		return header{}, false
 	}
 	return header{seq: seq, half: int(half), used: int(used), count: int(count)}, true

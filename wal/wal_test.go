@@ -188,6 +188,34 @@ func TestP4_2Room(t *testing.T) {
 	}
 }
 
+func TestP4_2RoomOfNothing(t *testing.T) {
+	for left := range 7 {
+		d := disk.New(16, 128)
+		l, _ := open(t, d)
+		for range left % 2 { // in either half
+			ok(t, "Reset", l.Reset(), api.OK)
+		}
+		ok(t, "Commit", l.Commit(make([]byte, l.Room()-left)), api.OK)
+		for i := range 5 {
+			ok(t, "as long as Room", l.Commit(make([]byte, l.Room())), api.OK)
+			if _, r := open(t, d); len(r) != i+2 || l.Count() != i+2 {
+				t.Fatalf("%d left: %d records", left, len(r))
+			}
+		}
+		ok(t, "longer", l.Commit(nil, []byte("x")), api.ErrFull)
+		ok(t, "longer", l.Commit([]byte("x")), api.ErrFull)
+		l, r := open(t, d)
+		ok(t, "several of nothing", l.Commit(nil, nil, nil), api.OK)
+		if _, now := open(t, d); !same(now, append(r, nil, nil, nil)) || l.Room() != 0 {
+			t.Errorf("%d left: %d records", left, len(now))
+		}
+		ok(t, "Reset", l.Reset([]byte("a"), nil), api.OK)
+		if _, now := open(t, d); !same(now, texts("a", "")) {
+			t.Errorf("%q", now)
+		}
+	}
+}
+
 // crashes does do on copies of d, with the power cut at each of its writes and flushes, and hands what it told, and what each way of keeping and tearing leaves, to look.
 func crashes(d *disk.Disk, rnd *rand.Rand, do func(d *disk.Disk) api.Errno, look func(d *disk.Disk, e api.Errno)) {
 	for n := 0; ; n++ {
@@ -354,6 +382,16 @@ func TestP4_1ALogOfOtherFramesIsNone(t *testing.T) {
 	l, _ := open(t, d)
 	l.Commit([]byte("four"))
 	d.Write(2, make([]byte, 128)) // two frames of nothing, in the place of one
+	d.Flush()
+	if l, r := open(t, d); len(r) != 0 || l.Count() != 0 {
+		t.Errorf("%q", r)
+	}
+	d = disk.New(16, 128)
+	l, _ = open(t, d)
+	l.Commit(texts("ab", "cd")...)
+	b := make([]byte, 128)
+	b[3] = 8 // one frame in the place of two
+	d.Write(2, b)
 	d.Flush()
 	if l, r := open(t, d); len(r) != 0 || l.Count() != 0 {
 		t.Errorf("%q", r)
