@@ -80,6 +80,52 @@ func TestP16_1Path(t *testing.T) {
 	}
 }
 
+func TestP16_1TheShortestAndFirst(t *testing.T) {
+	rnd := rand.New(rand.NewSource(2))
+	for range 300 {
+		edges := map[string][]string{}
+		var b []string
+		some := func(not string) (out []string) {
+			for i := range 8 {
+				if n := string(rune('a' + i)); n != not && rnd.Intn(4) == 0 {
+					out = append(out, n+"*")
+				}
+			}
+			return out
+		}
+		for i := range 8 {
+			n := string(rune('a' + i))
+			edges[n] = some(n)
+			b = append(b, n+"1 "+strings.Join(edges[n], " "))
+		}
+		r := rows(t, strings.Join(b, ";"))
+		edges[""] = some("")
+		n := needs(strings.Join(edges[""], " "))
+		p := solved(t, r, n)
+		best := map[string]string{}
+		var walk func(at, way string)
+		walk = func(at, way string) { // every way that meets no name twice
+			for _, e := range edges[at] {
+				x := e[:1]
+				if strings.Contains(way, x) {
+					continue
+				}
+				if known := best[x]; known == "" || len(way)+1 < len(known) || len(way)+1 == len(known) && way+x < known {
+					best[x] = way + x
+				}
+				walk(x, way+x)
+			}
+		}
+		walk("", "")
+		for i := range 8 {
+			name := string(rune('a' + i))
+			if got := strings.Join(why.Path(r, n, p, name), ""); got != best[name] {
+				t.Fatalf("%q, %v: %s: %q, not %q", b, edges[""], name, got, best[name])
+			}
+		}
+	}
+}
+
 func TestP16_2Users(t *testing.T) {
 	r := rows(t, "a1 b* d*; b1 d*; d1; c1 d*; a2; d2 b*")
 	n := needs("a1 d1")
