@@ -93,8 +93,30 @@ func TestP17_3Text(t *testing.T) {
 	if script.Text(nil) != "" {
 		t.Error("of nothing")
 	}
-	// Lines that no script has.
-	script.Text([]api.Line{{Kind: api.LEnd}, {Kind: api.LElse}, {Kind: api.LEnd}, {Kind: -1}, {Kind: api.LFail + 1}, {Kind: 99}, {Kind: api.LRepeat, N: -5}})
+}
+
+// TestP17_3TextOfNoScript: lines that no script has: only an if or repeat that is open stands a tab ahead.
+func TestP17_3TextOfNoScript(t *testing.T) {
+	ifA, rep, els, end, mk := api.Line{Kind: api.LIf, A: "a"}, api.Line{Kind: api.LRepeat, N: 2}, api.Line{Kind: api.LElse}, api.Line{Kind: api.LEnd}, api.Line{Kind: api.LMkdir, A: "b"}
+	for _, c := range []struct {
+		l    []api.Line
+		want string
+	}{
+		{[]api.Line{els, mk}, "else\nmkdir b\n"},
+		{[]api.Line{els, els, mk, els}, "else\nelse\nmkdir b\nelse\n"},
+		{[]api.Line{mk, els, ifA, end}, "mkdir b\nelse\nif exists a\nend\n"},
+		{[]api.Line{els, ifA, mk, els, mk, end, mk}, "else\nif exists a\n\tmkdir b\nelse\n\tmkdir b\nend\nmkdir b\n"},
+		{[]api.Line{ifA, mk, els, mk, els, mk, end, els, mk}, "if exists a\n\tmkdir b\nelse\n\tmkdir b\nelse\n\tmkdir b\nend\nelse\nmkdir b\n"},
+		{[]api.Line{rep, ifA, els, end, els, mk, end, mk}, "repeat 2\n\tif exists a\n\telse\n\tend\nelse\n\tmkdir b\nend\nmkdir b\n"},
+		{[]api.Line{rep, ifA, mk}, "repeat 2\n\tif exists a\n\t\tmkdir b\n"},
+		{[]api.Line{end, mk, end, end, rep, mk}, "end\nmkdir b\nend\nend\nrepeat 2\n\tmkdir b\n"},
+		{[]api.Line{end, els, end, ifA, end, mk}, "end\nelse\nend\nif exists a\nend\nmkdir b\n"},
+	} {
+		if got := script.Text(c.l); got != c.want {
+			t.Errorf("%q, not %q", got, c.want)
+		}
+	}
+	script.Text([]api.Line{{Kind: -1}, {Kind: api.LFail + 1}, {Kind: 99}, {Kind: api.LRepeat, N: -5}})
 }
 
 func TestP17_4ParseOfText(t *testing.T) {
